@@ -720,22 +720,25 @@ func divisorAnswers(g impl.Graph, a []int, b []int) string {
 	)
 }
 
+// checkKept checks that functions change neither a graph and two lists nor the memory behind them, and that they answer the same a second time. It calls them by answers, which returns their answers as text.
+func checkKept(t *testing.T, g impl.Graph, a []int, b []int, answers func(impl.Graph, []int, []int) string) {
+	graph, one, two := spacious(g), roomyList(a), roomyList(b)
+	edges, oneAll, twoAll := slices.Clone(graph.Edges[:cap(graph.Edges)]), slices.Clone(one[:cap(one)]), slices.Clone(two[:cap(two)])
+	first := answers(graph, one, two)
+	if graph.N != g.N || !slices.Equal(graph.Edges[:cap(graph.Edges)], edges) {
+		t.Fatalf("the graph %v or the memory behind it has changed", g)
+	}
+	if !slices.Equal(one[:cap(one)], oneAll) || !slices.Equal(two[:cap(two)], twoAll) {
+		t.Fatalf("%v, %v or the memory behind them has changed", a, b)
+	}
+	if answers(graph, one, two) != first || answers(g, a, b) != first {
+		t.Fatalf("a second call with %v, %v and %v answers something else", g, a, b)
+	}
+}
+
 // TestDivisorArgumentsAreKept checks that no function changes its arguments or the memory behind them, and that a second call answers the same.
 func TestDivisorArgumentsAreKept(t *testing.T) {
-	check := func(g impl.Graph, a []int, b []int) {
-		graph, one, two := spacious(g), roomyList(a), roomyList(b)
-		edges, oneAll, twoAll := slices.Clone(graph.Edges[:cap(graph.Edges)]), slices.Clone(one[:cap(one)]), slices.Clone(two[:cap(two)])
-		first := divisorAnswers(graph, one, two)
-		if graph.N != g.N || !slices.Equal(graph.Edges[:cap(graph.Edges)], edges) {
-			t.Fatalf("the graph %v or the memory behind it has changed", g)
-		}
-		if !slices.Equal(one[:cap(one)], oneAll) || !slices.Equal(two[:cap(two)], twoAll) {
-			t.Fatalf("%v, %v or the memory behind them has changed", a, b)
-		}
-		if divisorAnswers(graph, one, two) != first || divisorAnswers(g, a, b) != first {
-			t.Fatalf("a second call with %v, %v and %v answers something else", g, a, b)
-		}
-	}
+	check := func(g impl.Graph, a []int, b []int) { checkKept(t, g, a, b, divisorAnswers) }
 	for _, g := range append(someGraphs(), goodGraphs()[:200]...) {
 		for _, d := range listsOf(3, g.N, 60) {
 			check(g, d, d)
