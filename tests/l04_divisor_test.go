@@ -736,6 +736,20 @@ func checkKept(t *testing.T, g impl.Graph, a []int, b []int, answers func(impl.G
 	}
 }
 
+// checkOddKept is checkKept for graphs and lists that are not valid.
+func checkOddKept(t *testing.T, answers func(impl.Graph, []int, []int) string) {
+	for _, g := range badGraphs() {
+		for _, n := range lengthsFor(g) {
+			checkKept(t, g, slices.Repeat([]int{2}, n), slices.Repeat([]int{1}, n), answers)
+		}
+	}
+	for _, d := range wildLists() {
+		checkKept(t, completeGraph(4), d, d, answers)
+		checkKept(t, completeGraph(4), d, make([]int, 4), answers)
+		checkKept(t, completeGraph(4), make([]int, 4), d, answers)
+	}
+}
+
 // TestDivisorArgumentsAreKept checks that no function changes its arguments or the memory behind them, and that a second call answers the same.
 func TestDivisorArgumentsAreKept(t *testing.T) {
 	check := func(g impl.Graph, a []int, b []int) { checkKept(t, g, a, b, divisorAnswers) }
@@ -746,14 +760,7 @@ func TestDivisorArgumentsAreKept(t *testing.T) {
 			check(g, d, []int{0})
 		}
 	}
-	for _, g := range badGraphs() {
-		for _, n := range lengthsFor(g) {
-			check(g, slices.Repeat([]int{2}, n), slices.Repeat([]int{1}, n))
-		}
-	}
-	for _, d := range wildLists() {
-		check(completeGraph(4), d, d)
-	}
+	checkOddKept(t, divisorAnswers)
 }
 
 // TestDivisorResultsAreNew checks that results share no memory with arguments or with each other.
