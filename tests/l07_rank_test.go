@@ -520,21 +520,24 @@ func TestRankResultsAreNew(t *testing.T) {
 	}
 }
 
-// TestRankCallsAtOnce checks that many calls at the same time with the same arguments answer the same.
+// checkAtOnce checks that many calls at the same time with the same arguments answer the same. It calls the functions by answers, which returns their answers as text.
+func checkAtOnce(t *testing.T, g impl.Graph, a []int, b []int, answers func(impl.Graph, []int, []int) string) {
+	want := answers(g, a, b)
+	got := make([]string, 20)
+	var calls sync.WaitGroup
+	for k := range got {
+		calls.Go(func() { got[k] = answers(g, a, b) })
+	}
+	calls.Wait()
+	if slices.ContainsFunc(got, func(text string) bool { return text != want }) {
+		t.Errorf("the answers for %v and %v on %v differ: %v, want %v", a, b, g, got, want)
+	}
+}
+
 func TestRankCallsAtOnce(t *testing.T) {
 	for _, g := range []impl.Graph{graphOf(1), parallel(12), completeGraph(4), graphOf(6, 0, 1, 1, 2, 2, 3, 3, 4, 4, 5)} {
 		for _, d := range poorDivisors(g.N)[:10] {
-			e := scriptOf(g.N, []int{0})
-			want := rankAnswers(g, d, e)
-			got := make([]string, 20)
-			var calls sync.WaitGroup
-			for k := range got {
-				calls.Go(func() { got[k] = rankAnswers(g, d, e) })
-			}
-			calls.Wait()
-			if slices.ContainsFunc(got, func(text string) bool { return text != want }) {
-				t.Errorf("the answers for %v and %v on %v differ: %v, want %v", d, e, g, got, want)
-			}
+			checkAtOnce(t, g, d, scriptOf(g.N, []int{0}), rankAnswers)
 		}
 	}
 }

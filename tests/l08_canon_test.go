@@ -3,7 +3,6 @@ package tests
 import (
 	"fmt"
 	"slices"
-	"sync"
 	"testing"
 
 	"loop.example/g00841/impl"
@@ -412,20 +411,10 @@ func TestCanonResultsAreNew(t *testing.T) {
 	}
 }
 
-// TestCanonCallsAtOnce checks that many calls at the same time with the same arguments answer the same.
 func TestCanonCallsAtOnce(t *testing.T) {
 	for _, g := range []impl.Graph{graphOf(1), parallel(12), completeGraph(4), pendant()} {
 		for _, d := range poorDivisors(g.N)[:10] {
-			want := canonAnswers(g, d, canonicalSlowly(g))
-			got := make([]string, 20)
-			var calls sync.WaitGroup
-			for k := range got {
-				calls.Go(func() { got[k] = canonAnswers(g, d, canonicalSlowly(g)) })
-			}
-			calls.Wait()
-			if slices.ContainsFunc(got, func(text string) bool { return text != want }) {
-				t.Errorf("the answers for %v on %v differ: %v, want %v", d, g, got, want)
-			}
+			checkAtOnce(t, g, d, canonicalSlowly(g), canonAnswers)
 		}
 	}
 }
