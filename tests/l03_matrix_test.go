@@ -354,19 +354,20 @@ func undivided(m [][]*big.Int, k int) int {
 	return -1
 }
 
-// countTreesSlowly returns the number of the sets of N - 1 edges that join all vertices.
-func countTreesSlowly(g impl.Graph) int {
-	count := 0
-	for _, chosen := range chooseOf(len(g.Edges), g.N-1) {
+// treesSlowly returns the sets of N - 1 edges that join all vertices, as ascending lists of indices.
+func treesSlowly(g impl.Graph) [][]int {
+	return slices.DeleteFunc(chooseOf(len(g.Edges), g.N-1), func(chosen []int) bool {
 		part := impl.Graph{N: g.N}
 		for _, i := range chosen {
 			part.Edges = append(part.Edges, g.Edges[i])
 		}
-		if !slices.Contains(pathLengths(part)[0], far) {
-			count++
-		}
-	}
-	return count
+		return slices.Contains(pathLengths(part)[0], far)
+	})
+}
+
+// countTreesSlowly returns the number of the sets of N - 1 edges that join all vertices.
+func countTreesSlowly(g impl.Graph) int {
+	return len(treesSlowly(g))
 }
 
 func TestMatrixConstants(t *testing.T) {

@@ -434,7 +434,11 @@ func badSets(n int) map[string][]int {
 
 // orderOf returns the ints from 0 up to n.
 func orderOf(n int) []int {
-	return chooseOf(n, n)[0]
+	l := make([]int, n)
+	for v := range l {
+		l[v] = v
+	}
+	return l
 }
 
 // eachBadFiring calls check with arguments that FireSet does not accept, of every kind.

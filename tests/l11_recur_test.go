@@ -414,22 +414,27 @@ func TestRecurrentPiles(t *testing.T) {
 	}
 }
 
+// checkOneInEachClass checks that of some configurations, balanced at the sink, exactly one is in each class of degree 0.
+func checkOneInEachClass(t *testing.T, g impl.Graph, piles [][]int, q int) {
+	t.Helper()
+	class, seen := classesOf(g), map[classKey]bool{}
+	for _, p := range piles {
+		seen[class(balanced(withoutSink(p, q), q))] = true
+	}
+	if len(piles) != len(seen) || len(seen) != countTreesSlowly(g) {
+		t.Fatalf("the %d lists on %v with the sink %d are in %d classes", len(piles), g, q, len(seen))
+	}
+}
+
 // TestRecurrentPilesAreExact compares the list with all recurrent configurations, and checks that there is exactly one in each class.
 func TestRecurrentPilesAreExact(t *testing.T) {
 	for _, g := range append(recurGraphs(), sparseGraphs(50)...) {
-		class := classesOf(g)
 		for q := range g.N {
 			got, ok := impl.RecurrentPiles(g, q)
 			if want := recurrentSlowly(g, q); !ok || !sameMatrix(got, want) {
 				t.Fatalf("RecurrentPiles(%v, %d) = %v, %v, want %v", g, q, got, ok, want)
 			}
-			seen := map[classKey]bool{}
-			for _, p := range got {
-				seen[class(balanced(p, q))] = true
-			}
-			if len(got) != len(seen) || len(seen) != countTreesSlowly(g) {
-				t.Fatalf("%d recurrent configurations on %v with the sink %d are in %d classes", len(got), g, q, len(seen))
-			}
+			checkOneInEachClass(t, g, got, q)
 		}
 	}
 }
@@ -598,25 +603,34 @@ func TestRecurRejects(t *testing.T) {
 	})
 }
 
-func TestRecurRejectsSinks(t *testing.T) {
-	check := func(name string, g impl.Graph, q int) {
-		if got, ok := impl.IdentityPile(g, q); ok || len(got) != 0 {
-			t.Errorf("%s: IdentityPile(%v, %d) = %v, %v", name, g, q, got, ok)
-		}
-		if got, ok := impl.RecurrentPiles(g, q); ok || len(got) != 0 {
-			t.Errorf("%s: RecurrentPiles(%v, %d) = %v, %v", name, g, q, got, ok)
-		}
-	}
+// oddSinks returns ints that are no vertex of a graph.
+func oddSinks(g impl.Graph) []int {
+	return append(oddInts(), g.N, g.N+1, 64, 256, 1<<32, -1<<32, 1<<32+1)
+}
+
+// eachBadSink calls check with graphs that are not valid, and with ints that are no vertex of a valid one.
+func eachBadSink(check func(name string, g impl.Graph, q int)) {
 	for name, g := range badGraphs() {
 		for _, q := range append(oddInts(), 0, 1, 2, 5) {
 			check(name, g, q)
 		}
 	}
 	for _, g := range append(someGraphs(), sparseGraphs(50)...) {
-		for _, q := range append(oddInts(), g.N, g.N+1, 64, 1<<32, -1<<32, 1<<32+1) {
+		for _, q := range oddSinks(g) {
 			check("no such sink", g, q)
 		}
 	}
+}
+
+func TestRecurRejectsSinks(t *testing.T) {
+	eachBadSink(func(name string, g impl.Graph, q int) {
+		if got, ok := impl.IdentityPile(g, q); ok || len(got) != 0 {
+			t.Errorf("%s: IdentityPile(%v, %d) = %v, %v", name, g, q, got, ok)
+		}
+		if got, ok := impl.RecurrentPiles(g, q); ok || len(got) != 0 {
+			t.Errorf("%s: RecurrentPiles(%v, %d) = %v, %v", name, g, q, got, ok)
+		}
+	})
 }
 
 // recurAnswers returns the answers of all functions of the chapter, as text.
